@@ -53,13 +53,6 @@ func checkNoEnd(t *testing.T, s string) {
 	}
 }
 
-func TestEndConstants(t *testing.T) {
-	got := [...]int{impl.EndIn, impl.EndBox, impl.EndOut, impl.EndLast, impl.EndPort}
-	if want := [...]int{9, 50, 100, 109, 999}; got != want {
-		t.Fatal(got)
-	}
-}
-
 // Promise 18, and the edges of each range of addresses and of the ports.
 func TestEndSidesAtEdges(t *testing.T) {
 	sides := map[int]side{
