@@ -60,6 +60,11 @@ func isBox(e EndPoint) bool {
 	return e.Addr == EndBox && isPort(e.Port)
 }
 
+// boxAt is the box's end with a port.
+func boxAt(port int) EndPoint {
+	return EndPoint{Addr: EndBox, Port: port}
+}
+
 // isPort says whether a number is a port.
 func isPort(n int) bool {
 	return within(n, 1, EndPort)
